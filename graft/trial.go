@@ -4,7 +4,7 @@ import (
 	"iter"
 
 	"graftery/api"
-	"graftery/heap"
+	"graftery/living"
 	"graftery/vm"
 )
 
@@ -14,7 +14,7 @@ func (g *grafter) try() api.Errno {
 	if len(g.unit.Upgrades) == 0 {
 		return api.OK
 	}
-	w, e := collected(g.world)
+	w, e := living.Collected(g.world)
 	if e != api.OK {
 		return e
 	}
@@ -22,24 +22,6 @@ func (g *grafter) try() api.Errno {
 		return api.OK
 	}
 	return tryEach(w)
-}
-
-// collected: the world with nothing on its heap but what globals reach.
-func collected(w api.World) (api.World, api.Errno) {
-	w = vm.Copy(w)
-	var roots []api.Word
-	for _, g := range w.Globs {
-		roots = append(roots, g.Value)
-	}
-	h, roots, e := heap.Collect(w.Heap, roots)
-	if e != api.OK {
-		return api.World{}, e
-	}
-	w.Heap = h
-	for i, x := range roots {
-		w.Globs[i].Value = x
-	}
-	return w, api.OK
 }
 
 // areBroughtUp: can all records be brought up, one behind the other, while the
